@@ -1,11 +1,6 @@
 package parse
 
-import (
-	"cmp"
-	"slices"
-
-	"recension/api"
-)
+import "recension/api"
 
 func (p *parser) file() api.Node {
 	p.want(key("package"))
@@ -23,8 +18,6 @@ func (p *parser) file() api.Node {
 	if p.at < len(p.tokens) {
 		p.fail()
 	}
-	// The numbers of the Kinds are in the order in which a file's Kids stand.
-	slices.SortStableFunc(kids, func(a, b api.Node) int { return cmp.Compare(a.Kind, b.Kind) })
 	return api.Node{Kind: api.NFile, Kids: kids}
 }
 

@@ -6,6 +6,7 @@ import (
 	"testing"
 
 	"recension/api"
+	"recension/node"
 	"recension/parse"
 	"recension/scan"
 )
@@ -291,35 +292,46 @@ func TestWhereAnExprStands(t *testing.T) {
 	}
 }
 
-// TestOrder takes each order of up to six pieces of a file.
+// TestOrder takes each order of up to five declarations of a file: they stand in the text's.
 func TestOrder(t *testing.T) {
 	wantTree(t, "package a\nfunc f() {}\ntype T struct {}\nconst c = 1\nvar v T",
-		"file0(package1 var22(type23) const17(int19) struct11 func4(block7))")
+		"file0(package1 func4(block7) struct11 const17(int19) var22(type23))")
 	wantTree(t, "package a\nimport b\nimport c\nfunc f() {}\nvar v T\nfunc g() {}\nvar w T",
-		"file0(package1 import4 import7 var17(type18) var28(type29) func10(block13) func21(block24))")
+		"file0(package1 import4 import7 func10(block13) var17(type18) func21(block24) var28(type29))")
 	decls := []string{"var x T;", "const x = 1;", "type x struct {};", "func x() {};"}
 	kinds := []string{"var", "const", "struct", "func"}
 	s := newSlow()
-	var all func(text string, count int)
-	all = func(text string, count int) {
+	var all func(text, want string, count int)
+	all = func(text, want string, count int) {
 		if !s.sameText(t, text) {
 			t.Errorf("P11.1: %q has a fault", text)
 		}
 		tree, _, _ := parse.Text(text)
-		told := tell(tree)
-		for i := 1; i < len(kinds); i++ {
-			if ahead, behind := strings.LastIndex(told, " "+kinds[i-1]), strings.Index(told, " "+kinds[i]); behind >= 0 && ahead > behind {
-				t.Errorf("P11.1: %q is %s", text, told)
-			}
+		if got := kidsOf(tree); got != want {
+			t.Errorf("P11.1: %q has %s, not %s", text, got, want)
 		}
 		for i := range decls {
 			if count > 0 {
-				all(text+decls[i], count-1)
+				all(text+decls[i], want+" "+kinds[i], count-1)
 			}
 		}
 	}
-	all("package a;", 5)
-	all("package a;import b;import c;", 3)
+	all("package a;", "package", 5)
+	all("package a;import b;import c;", "package import import", 3)
+}
+
+// kidsOf tells the names of the Kinds of a node's Kids, and where one stands ahead of one of an earlier token.
+func kidsOf(n api.Node) string {
+	var told []string
+	last := 0
+	for _, kid := range n.Kids {
+		if kid.Tok <= last {
+			told = append(told, "behind")
+		}
+		last = kid.Tok
+		told = append(told, node.Name(kid.Kind))
+	}
+	return strings.Join(told, " ")
 }
 
 // TestRanks takes each two operators.

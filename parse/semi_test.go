@@ -54,9 +54,9 @@ func TestSemicolonsLeftOut(t *testing.T) {
 	wantBody(t, "if x {y} else {z};y", "if8(name9 block10(do11(name11)) block14(do15(name15))) do18(name18)")
 	wantBody(t, "if x {if y {z}};y", "if8(name9 block10(if11(name12 block13(do14(name14))))) do18(name18)")
 	wantBody(t, "for x {L: for y {z}};y", "for8(name9 block10(label11(for13(name14 block15(do16(name16)))))) do20(name20)")
-	wantTree(t, "package a;type T struct {x int};var y T", "file0(package1 var12(type13) struct4(field7(type8)))")
-	wantTree(t, "package a;type T struct {x int;};var y T", "file0(package1 var13(type14) struct4(field7(type8)))")
-	wantTree(t, "package a;type T struct {x q.T};var y T", "file0(package1 var14(type15) struct4(field7(type10(name8))))")
+	wantTree(t, "package a;type T struct {x int};var y T", "file0(package1 struct4(field7(type8)) var12(type13))")
+	wantTree(t, "package a;type T struct {x int;};var y T", "file0(package1 struct4(field7(type8)) var13(type14))")
+	wantTree(t, "package a;type T struct {x q.T};var y T", "file0(package1 struct4(field7(type10(name8))) var14(type15))")
 	for _, s := range []string{"package a;var x T;func f() {x} @var y T", "package a;type T struct {x int} @var y T", "package a;func f() {{x} @y}", "package a;func f() {if x {} @y}", "package a;func f() {x}@}"} {
 		wantFault(t, s)
 	}

@@ -307,8 +307,6 @@ func nodesOf(p *piece, l []api.Token) []api.Node {
 			x = y
 		}
 		return []api.Node{x}
-	case "file":
-		kids = inFileOrder(kids)
 	}
 	kind := kindOf(strings.TrimRight(string(p.rule), "12"))
 	if kind == 0 {
@@ -350,18 +348,6 @@ func rankOf(s string) int {
 		}
 	}
 	return 0
-}
-
-func inFileOrder(kids []api.Node) []api.Node {
-	var ordered []api.Node
-	for _, kind := range []int{api.NPackage, api.NImport, api.NVar, api.NConst, api.NStruct, api.NFunc} {
-		for _, kid := range kids {
-			if kid.Kind == kind {
-				ordered = append(ordered, kid)
-			}
-		}
-	}
-	return ordered
 }
 
 // tell tells a tree: the names of the Kinds and the numbers of the tokens.

@@ -36,7 +36,7 @@ func files() [][2]string {
 		{"package a\nfunc f(x int) T {x\ny}", "(file (package a) (func f (param x (type int)) (type T) (block (do (name x)) (do (name y)))))"},
 		{
 			"package a\nimport b\nimport c\nfunc f() {}\ntype T struct {}\nconst c = 1\nvar v T\nfunc g() {}\nvar w U\ntype U struct {}\nconst d = 2",
-			"(file (package a) (import b) (import c) (var v (type T)) (var w (type U)) (const c (int 1)) (const d (int 2)) (struct T) (struct U) (func f (block)) (func g (block)))",
+			"(file (package a) (import b) (import c) (func f (block)) (struct T) (const c (int 1)) (var v (type T)) (func g (block)) (var w (type U)) (struct U) (const d (int 2)))",
 		},
 	}
 }
@@ -264,10 +264,16 @@ func groups() [][]string {
 		{"package a\nimport b"},
 		{"package a\nimport b\nimport c", "package a;import b;import c", "package a\nimport b;;\n;import c"},
 		{"package a\nimport c\nimport b"},
-		// A file's Kids of one Kind stand in the text's order, those of several in the order of the Kinds.
+		// A file's Kids stand in the text's order.
 		{"package a\nvar x int\nvar y int"},
 		{"package a\nvar y int\nvar x int"},
-		{"package a\nvar x int\nconst c = 1\nfunc f() {}\ntype T struct {}", "package a\nfunc f() {}\ntype T struct {}\nconst c = 1\nvar x int", "package a\ntype T struct {\n}\nvar x int\nfunc f() {;\n;}\nconst c = 1;"},
+		{"package a\nvar x int\nconst c = 1\nfunc f() {}\ntype T struct {}", "package a\nvar x int;const c = 1;func f() {\n}\n\ntype T struct {;}\n"},
+		{"package a\nfunc f() {}\ntype T struct {}\nconst c = 1\nvar x int", "package a;func f() {};type T struct {};const c = 1;var x int;"},
+		{"package a\ntype T struct {\n}\nvar x int\nfunc f() {;\n;}\nconst c = 1;", "package a\ntype T struct {}\nvar x int\nfunc f() {}\nconst c = 1"},
+		{"package a\nvar x int\nconst c = 1"},
+		{"package a\nconst c = 1\nvar x int"},
+		{"package a\nvar x int\nfunc f() {}"},
+		{"package a\nfunc f() {}\nvar x int"},
 		{"package a\ntype T struct {x int;y int}", "package a\ntype T struct {\n\tx int\n\ty int\n}\n", "package a\ntype T struct {;;x int;;y int;}"},
 		{"package a\ntype T struct {y int;x int}"},
 		{inFunc(""), inFunc(";"), inFunc("\n"), inFunc("; ;\n;"), inFunc("// x\n"), "package a\nfunc f (\n) {}"},
